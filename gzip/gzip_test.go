@@ -212,6 +212,15 @@ func TestWhatIsChangedIsTold(t *testing.T) {
 	}
 }
 
+func TestManyMembers(t *testing.T) {
+	one := member(api.Gz{}, 6, "x")
+	b := bytes.Repeat(one, 50000)
+	out, l, at, e := All(b, 50000)
+	if !bytes.Equal(out, bytes.Repeat([]byte("x"), 50000)) || len(l) != 50000 || at != 0 || e != api.OK {
+		t.Error(len(out), len(l), at, e)
+	}
+}
+
 func TestIs(t *testing.T) {
 	for s, want := range map[string]bool{"": false, "\x1f": false, "\x1f\x8b": true, "\x1f\x8bx": true, "\x1f\x8c": false, "\x1e\x8b": false} {
 		if Is([]byte(s)) != want {
