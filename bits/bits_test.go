@@ -88,6 +88,26 @@ func TestReaderAlignAndBytes(t *testing.T) {
 	}
 }
 
+func TestBytesOfManyBytes(t *testing.T) {
+	b := make([]byte, 200)
+	for i := range b {
+		b[i] = byte(i)
+	}
+	r := NewReader(b)
+	if got, ok := r.Bytes(201); ok || got != nil || r.At() != 0 {
+		t.Error(len(got), ok)
+	}
+	if got, ok := r.Bytes(150); !ok || !bytes.Equal(got, b[:150]) {
+		t.Error(len(got), ok)
+	}
+	if got, ok := r.Bytes(51); ok || got != nil {
+		t.Error(len(got), ok)
+	}
+	if got, ok := r.Bytes(50); !ok || !bytes.Equal(got, b[150:]) || r.Left() != 0 {
+		t.Error(len(got), ok)
+	}
+}
+
 func TestReaderTellsCopies(t *testing.T) {
 	r := NewReader([]byte{1, 2, 3})
 	b, _ := r.Bytes(1)

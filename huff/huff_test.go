@@ -40,7 +40,7 @@ func TestWhatIsRefused(t *testing.T) {
 		weights []int
 		limit   int
 	}{
-		{make([]int, 321), 15}, {[]int{1, -1}, 15}, {[]int{1, 1000001}, 15}, {[]int{1, 1}, 0}, {[]int{1, 1}, 16}, {nil, -1},
+		{make([]int, 321), 15}, {[]int{1, -1}, 15}, {[]int{1, 1000001}, 15}, {[]int{1, 1}, 0}, {[]int{1, 1}, 16}, {nil, -1}, {nil, 0}, {[]int{1}, 0},
 		{[]int{1, 1, 1}, 1}, {slices.Repeat([]int{1}, 17), 4}, {slices.Repeat([]int{1}, 257), 8}, {[]int{math.MinInt}, 15}, {[]int{math.MaxInt}, 15},
 	} {
 		if l, e := Lengths(c.weights, c.limit); e != api.ErrArg || l != nil {
