@@ -185,7 +185,7 @@ func TestAll(t *testing.T) {
 		{cat(a, b), 5, "aaaab", 2, n + 10 + 5 + 1, api.ErrQuota}, {cat(a, b), 4, "aaaa", 2, n + 10 + 5, api.ErrQuota}, {a, -1, "", 1, 12, api.ErrQuota}, {b, math.MinInt, "", 1, 15, api.ErrQuota},
 		{cat(b, a[:n-8]), 99, "bbaaaa", 2, m + n - 8, api.ErrEnd}, {cat(b, a[:n-4]), 99, "bbaaaa", 2, m + n - 4, api.ErrEnd}, {a[:n-1], 99, "aaaa", 1, n - 1, api.ErrEnd}, {a[:12], 99, "", 1, 12, api.ErrEnd},
 		{turned(a, n-8), 99, "aaaa", 1, n - 8, api.ErrSum}, {turned(a, n-1), 99, "aaaa", 1, n - 8, api.ErrSum}, {cat(b, turned(a, n-4)), 99, "bbaaaa", 2, m + n - 8, api.ErrSum},
-		{turned(a, n-8)[:n-3], 99, "aaaa", 1, n - 8, api.ErrSum}, {turned(a, n-8)[:n-5], 99, "aaaa", 1, n - 5, api.ErrEnd},
+		{turned(a, n-8)[:n-3], 99, "aaaa", 1, n - 8, api.ErrSum}, {turned(a, n-8)[:n-4], 99, "aaaa", 1, n - 8, api.ErrSum}, {turned(a, n-8)[:n-5], 99, "aaaa", 1, n - 5, api.ErrEnd},
 		{turned(b, 11), 99, "", 1, 10, api.ErrHead},
 	} {
 		out, l, at, e := All(c.b, c.most)
@@ -208,6 +208,24 @@ func TestWhatIsChangedIsTold(t *testing.T) {
 		}
 		if _, _, _, e := All(b[:at], 1<<20); e == api.OK {
 			t.Error("cut at", at)
+		}
+	}
+}
+
+func TestEachCutIsTheEnd(t *testing.T) {
+	text := strings.Repeat("what is cut off is told where the bytes end ", 3)
+	for _, level := range []int{0, 9} {
+		head, _ := Head(api.Gz{Name: "n"})
+		b := member(api.Gz{Name: "n"}, level, text)
+		for cut := 1; cut < len(b); cut++ {
+			out, l, at, e := All(b[:cut], 1000)
+			want, heads := cut, 1
+			if cut < len(head) {
+				want, heads = 0, 0
+			}
+			if e != api.ErrEnd || at != want || len(l) != heads || !strings.HasPrefix(text, string(out)) {
+				t.Error(level, cut, len(out), len(l), at, e)
+			}
 		}
 	}
 }

@@ -7,6 +7,7 @@ import (
 	"portmanteau/api"
 	"portmanteau/bits"
 	"portmanteau/canon"
+	"portmanteau/huff"
 )
 
 func run(pairs ...int) []api.Run {
@@ -111,6 +112,38 @@ func TestWrittenIsRead(t *testing.T) {
 		if e != api.OK || !slices.Equal(lit, c[0]) || !slices.Equal(dist, c[1]) || r.At() != size {
 			t.Error(name, e, r.At(), size)
 		}
+	}
+}
+
+func TestCodesOfLengthsThatWouldBeTooLong(t *testing.T) {
+	// Lengths of which each is told about twice as often as the next: the best code of them would have more than 7 bits.
+	x := uint32(1)
+	deep := 0
+	for range 3000 {
+		weights := make([]int, 286)
+		for i := range weights {
+			x = x*1664525 + 1013904223
+			weights[i] = 1 + int(x>>8%1000)>>(x>>20%10)<<(x>>27%4)
+		}
+		lit, _ := huff.Lengths(weights, 15)
+		dist := []int{0}
+		counts := make([]int, symbols)
+		for _, run := range Runs(slices.Concat(lit, dist)) {
+			counts[run.Sym]++
+		}
+		if free, _ := huff.Lengths(counts, 15); slices.Max(free) > 7 {
+			deep++
+		}
+		w := bits.NewWriter()
+		if e := Write(w, lit, dist); e != api.OK {
+			t.Fatal(e)
+		}
+		if got, _, e := Read(bits.NewReader(w.Bytes())); e != api.OK || !slices.Equal(got, lit) {
+			t.Fatal(e, lit)
+		}
+	}
+	if deep == 0 {
+		t.Error("none would have been too long")
 	}
 }
 
@@ -231,6 +264,18 @@ func TestAskedWhenWhollyThere(t *testing.T) {
 	w.Put(0, 2)
 	if _, _, e := Read(bits.NewReader(w.Bytes())); e != api.ErrHead {
 		t.Error("the extra bits are there", e)
+	}
+	// A code of lengths that is none, and nothing behind it.
+	w = bits.NewWriter()
+	w.Put(0, 1)
+	w.Put(15<<10, 14)
+	for range symbols {
+		w.Put(0, 3)
+	}
+	r := bits.NewReader(w.Bytes())
+	r.Take(1)
+	if _, _, e := Read(r); e != api.ErrHead || w.Len() != 72 {
+		t.Error("the code of lengths is just there", e)
 	}
 	if _, _, e := Read(bits.NewReader(nil)); e != api.ErrEnd {
 		t.Error("nothing", e)

@@ -157,12 +157,18 @@ func TestFarPlacesAreForgotten(t *testing.T) {
 			}
 			at := 0
 			for i, x := range l {
-				if i%199 == 0 && x.Len > 0 {
+				if i%199 == 0 && level < 7 {
 					if n, dist := plain(b, at); n != x.Len || dist != x.Dist {
 						t.Error(letters, level, at, n, dist, x)
 					}
 				}
 				at += max(x.Len, 1)
+			}
+			for at := 40000; at < len(b); at += 1999 {
+				n, dist := Longest(b, at)
+				if wn, wd := plain(b, at); n != wn || dist != wd {
+					t.Error(letters, at, n, dist)
+				}
 			}
 		}
 	}
