@@ -79,6 +79,14 @@ func TestBrokenTrees(t *testing.T) {
 			t.Error(i)
 		}
 	}
+	// The newest node, where all that was ever done was to make some.
+	f := tree.New(0)
+	f.Make(1, "a", api.Node{Kind: api.KFile})
+	f.Make(1, "b", api.Node{Kind: api.KFile})
+	field(node(f, 3), "Node", "Links").SetInt(2)
+	if Tree(f) {
+		t.Error("the newest node")
+	}
 }
 
 func TestOutside(t *testing.T) {

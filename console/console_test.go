@@ -46,7 +46,7 @@ func TestLinesThatAreNone(t *testing.T) {
 	c := New()
 	long := strings.Repeat("61", 200)
 	for _, line := range []string{
-		"", " ", "x", "dir", "dir ", " dir a", "dir a ", "dir  a", "dir a b", "DIR a", "dir\ta", "file a", "file a 0", "file a 0g", "file a AB", "file a 01 02", "file a --", "file a " + long + "61", "file a 0x", "sym a", "fifo a b", "link a", "link a b c",
+		"", " ", "x", "dir", "dir ", " dir a", "dir a ", "dir  a", "dir a b", "DIR a", "dir\ta", "file a", "file a 0", "file a 0g", "file a g0", "file a AB", "file a 01 02", "file a --", "file a " + long + "61", "file a 0x", "sym a", "fifo a b", "link a", "link a b c",
 		"write a 1", "write a -1 01", "write a 01 01", "write a +1 01", "write a 10000001 01", "write a 1", "write a x 01", "grow a", "grow a 1.0", "grow a 1 2", "grow a 99999999999999999999", "grow a -0", "drop", "set a 1 2 3", "set a 1 2 3 4 5", "set a 1 2 3 -4", "pack a 1 1", "pack a 1 1 1 1", "pack a 1 1 -1",
 		"list a", "unpack", "unpack a b", "append a 1 1", "append a b 1 1", "snap a", "incr", "incr a", "incr 1 2", "restore", "text", "text a b", "-", "file - ",
 	} {
@@ -168,6 +168,11 @@ func TestErrorsOfBags(t *testing.T) {
 	ask(t, c, "list => ok")
 }
 
+func TestADirectoryInTheWay(t *testing.T) {
+	c := New()
+	ask(t, c, "file a - => ok", "pack . 2 1 0 => ok 1536", "dir x => ok", "dir x/a => ok", "dir x/a/b => ok", "unpack x => error 13 0", "restore x => ok 1", "text x => ok\n61 1 0 0 0 0 0 0 0")
+}
+
 func TestQuotaOfUnpack(t *testing.T) {
 	c := New()
 	ask(t, c, "file a - => ok", "grow a 6000 => ok")
@@ -206,6 +211,7 @@ func TestIncr(t *testing.T) {
 	if !same.Same(c.FS(), 1, other.FS(), 1) {
 		t.Error(same.Text(other.FS(), 1))
 	}
+	ask(t, New(), "file a - => ok", "incr 2 => ok 3584", "incr 1 => ok 2560")
 	other = fill(t)
 	ask(t, other, "dir x => ok", "pack . 2 1 0 => ok 4096", "restore x => ok 5", "text x/x => ok")
 	names := other.FS().Names(1)

@@ -152,6 +152,8 @@ func TestNumbersThatDoNotGoIn(t *testing.T) {
 	e := api.Entry{Kind: api.KFifo, Name: "a", User: 1 << 21, Group: 1<<31 - 1, Time: -1}
 	check(t, api.FGnu, e, told(t, api.Head{Gnu: true, Name: "a", Type: '6', User: 1 << 21, Group: 1<<31 - 1, Time: -1}, ""))
 	check(t, api.FPax, e, told(t, api.Head{Name: "pax", Type: 'x'}, records("uid", "2097152", "gid", "2147483647", "mtime", "-0.000000001")), told(t, api.Head{Name: "a", Type: '6'}, ""))
+	e = api.Entry{Kind: api.KFifo, Name: "a", User: 1<<21 - 1, Group: 1<<21 - 1}
+	check(t, api.FPax, e, told(t, api.Head{Name: "a", Type: '6', User: 1<<21 - 1, Group: 1<<21 - 1}, ""))
 	for i, x := range []struct {
 		time, seconds int
 		mtime         string

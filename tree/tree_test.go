@@ -95,8 +95,14 @@ func TestErrorsInTheirOrder(t *testing.T) {
 	f := grown(t)
 	before := f.Copy()
 	bad := strings.Repeat("p", 256)
-	find := func(d int, part string) api.Errno { _, e := f.Find(d, part); return e }
-	mk := func(d int, part string, n api.Node) api.Errno { _, e := f.Make(d, part, n); return e }
+	none := func(ino int, e api.Errno) api.Errno {
+		if ino != 0 {
+			t.Error("a node is told beside an error", ino, e)
+		}
+		return e
+	}
+	find := func(d int, part string) api.Errno { return none(f.Find(d, part)) }
+	mk := func(d int, part string, n api.Node) api.Errno { return none(f.Make(d, part, n)) }
 	read := func(ino, at, n int) api.Errno { _, e := f.Read(ino, at, n); return e }
 	for i, c := range []struct{ got, want api.Errno }{
 		{find(9, "/"), api.ErrNone}, {find(3, "/"), api.ErrDir}, {find(1, "/"), api.ErrPath}, {find(1, "x"), api.ErrNone}, {find(1, ".."), api.ErrPath}, {find(1, ""), api.ErrPath}, {find(4, "f"), api.ErrDir},
@@ -344,6 +350,37 @@ func TestWriteUpToTheQuota(t *testing.T) {
 	}
 }
 
+func TestWriteFillsGaps(t *testing.T) {
+	for i, c := range []struct {
+		quota, at int
+		b, want   string
+		size      int
+		e         api.Errno
+	}{
+		// What is there already: 2 to 3 and 6 to 7.
+		{8, 0, "01234567", "01234567", 8, api.OK}, {7, 0, "01234567", "01234", 8, api.ErrQuota}, {6, 0, "01234567", "0123", 8, api.ErrQuota}, {5, 0, "01234567", "0", 8, api.ErrQuota}, {4, 0, "01234567", "", 8, api.ErrQuota}, {4, 2, "abc", "ab", 8, api.ErrQuota},
+		{6, 4, "456789", "4567", 8, api.ErrQuota}, {7, 4, "456789", "45678", 9, api.ErrQuota}, {4, 6, "ab", "ab", 8, api.OK}, {5, 8, "89", "8", 9, api.ErrQuota}, {6, 2, "234567", "234567", 8, api.OK},
+	} {
+		f := New(c.quota)
+		f.Make(1, "a", file())
+		f.Write(2, 2, []byte("--"))
+		f.Write(2, 6, []byte("--"))
+		e := f.Write(2, c.at, []byte(c.b))
+		n := stat(t, f, 2)
+		got, _ := f.Read(2, c.at, len(c.want))
+		if e != c.e || string(got) != c.want || n.Size != c.size {
+			t.Errorf("%d: %v %q %d", i, e, got, n.Size)
+		}
+		sum := 0
+		for _, p := range f.Pieces(2) {
+			sum += len(p.B)
+		}
+		if f.Used() != sum || sum > c.quota {
+			t.Error(i, f.Used(), sum)
+		}
+	}
+}
+
 func TestGrowAndRead(t *testing.T) {
 	f := grown(t)
 	f.Write(3, 4, []byte("efgh"))
@@ -447,6 +484,9 @@ func TestCopyIsAnother(t *testing.T) {
 	g.Set(2, api.Node{})
 	if !alike(f, h) || alike(f, g) {
 		t.Error("the copy is no other")
+	}
+	if !slices.Equal(f.Names(1), []string{"a", "l"}) || len(f.Names(5)) != 0 || !slices.Equal(g.Names(1), []string{"a"}) || !slices.Equal(g.Names(5), []string{"new"}) {
+		t.Error("names are shared", f.Names(1), g.Names(1))
 	}
 	f.Write(3, 3, []byte("def"))
 	if !samePieces(h.Pieces(3), []api.Piece{piece(0, "abc")}) {

@@ -120,14 +120,14 @@ func TestBelow(t *testing.T) {
 }
 
 func TestFollow(t *testing.T) {
-	f := plant(t, "a/", "a/b/", "a/b/f", "abs -> /a/b", "rel -> a/b", "a/up -> ../g", "g", "a/top -> ..", "out -> ../../../g", "self -> self", "ping -> pong", "pong -> ping", "gone -> nowhere", "file -> g", "slash -> /", "a/b/back -> ../up", "dots -> ./a//./b/")
+	f := plant(t, "a/", "a/b/", "a/b/f", "abs -> /a/b", "rel -> a/b", "a/up -> ../g", "g", "a/top -> ..", "out -> ../../../g", "self -> self", "ping -> pong", "pong -> ping", "gone -> nowhere", "file -> g", "slash -> /", "a/b/back -> ../up", "dots -> ./a//./b/", "a/b/abs -> /g", "a/b/far -> /a/b/../../g")
 	for _, c := range []struct {
 		path string
 		want int
 		e    api.Errno
 	}{
 		{"a", 2, api.OK}, {"/a", 2, api.OK}, {"a/b/f", 4, api.OK}, {"//a//./b/", 3, api.OK}, {".", 1, api.OK}, {"/", 1, api.OK}, {"..", 1, api.OK}, {"../../a", 2, api.OK}, {"a/../g", 8, api.OK}, {"a/b/../..", 1, api.OK},
-		{"abs/f", 4, api.OK}, {"abs", 3, api.OK}, {"rel/f", 4, api.OK}, {"a/up", 8, api.OK}, {"a/top/g", 8, api.OK}, {"out", 8, api.OK}, {"slash/g", 8, api.OK}, {"abs/..", 2, api.OK}, {"a/b/back", 8, api.OK}, {"dots/f", 4, api.OK}, {"file", 8, api.OK},
+		{"abs/f", 4, api.OK}, {"abs", 3, api.OK}, {"rel/f", 4, api.OK}, {"a/up", 8, api.OK}, {"a/top/g", 8, api.OK}, {"out", 8, api.OK}, {"slash/g", 8, api.OK}, {"abs/..", 2, api.OK}, {"a/b/back", 8, api.OK}, {"dots/f", 4, api.OK}, {"file", 8, api.OK}, {"a/b/abs", 8, api.OK}, {"a/b/far", 8, api.OK},
 		{"g/..", 1, api.OK}, {"g/.", 8, api.OK}, {"g/", 8, api.OK}, {"g/x", 0, api.ErrDir}, {"file/x", 0, api.ErrDir}, {"x/..", 0, api.ErrNone}, {"gone", 0, api.ErrNone}, {"gone/..", 0, api.ErrNone}, {"a/x", 0, api.ErrNone},
 		{"self", 0, api.ErrLoop}, {"ping/x", 0, api.ErrLoop}, {"a/../self/..", 0, api.ErrLoop},
 		{"", 0, api.ErrPath}, {"a\x00", 0, api.ErrPath}, {"x/\x00", 0, api.ErrPath}, {strings.Repeat("/", 4097), 0, api.ErrPath}, {strings.Repeat("/", 4096), 1, api.OK}, {strings.Repeat("n", 256), 0, api.ErrPath}, {"x/" + strings.Repeat("n", 256), 0, api.ErrNone},
