@@ -176,7 +176,7 @@ func TestNumbersToldAhead(t *testing.T) {
 		{cat(a, end), nil, 0, api.ErrForm}, {cat(records("uid", "1"), a, end), nil, 0, api.ErrForm}, {cat(records("uid", "-1", "gid", "1"), a, end), nil, 0, api.ErrForm}, {cat(late, end), nil, 0, api.ErrHead}, {cat(early, end), nil, 0, api.ErrHead},
 		{cat(records("uid", "x", "mtime", "x"), late, end), nil, 0, api.ErrPax}, {cat(records("size", "-1"), f, end), nil, 0, api.ErrPax}, {cat(records("size", "1099511627777"), f, end), nil, 0, api.ErrHead}, {cat(records("size", "1099511627776"), f, end), nil, 0, api.ErrEnd}, {cat(records("size", "3", "uid", "x"), f, end), nil, 0, api.ErrForm},
 		{cat(records("size", "4"), raw(api.Head{Type: '0', Name: "a", Gnu: true, Size: 1<<40 + 1}, "data"), end), []api.Entry{file("a", "data")}, 2048, api.OK}, {cat(records("size", "512"), f, end), []api.Entry{file("a", "data"+strings.Repeat("\x00", 508))}, 2048, api.OK}, {cat(records("size", "0"), f, end), []api.Entry{file("a", "")}, 1536, api.ErrHead},
-		{cat(records("size", "x"), raw(api.Head{Type: 'L'}, "b\x00"), f, end), nil, 0, api.ErrPax}, {cat(records("size", "4", "uid", "x"), f[:600]), nil, 0, api.ErrEnd},
+		{cat(records("size", "4"), long('L', "b\x00"), f, end), []api.Entry{file("b", "data")}, 3072, api.OK}, {cat(records("size", "x"), long('L', "b\x00"), f, end), nil, 0, api.ErrPax}, {cat(records("size", "4", "uid", "x"), f[:600]), nil, 0, api.ErrEnd},
 	}...)
 	check(t, l)
 }
@@ -201,8 +201,9 @@ func TestKinds(t *testing.T) {
 	})
 	var l []answer
 	for _, kind := range []byte("123456") {
-		l = append(l, answer{cat(raw(with(kind), "data"), end), nil, 0, api.ErrForm}, answer{raw(with(kind), "data")[:700], nil, 0, api.ErrEnd})
+		l = append(l, answer{cat(raw(with(kind), "d"), end), nil, 0, api.ErrForm}, answer{cat(raw(with(kind), "data"), end), nil, 0, api.ErrForm}, answer{raw(with(kind), "data")[:700], nil, 0, api.ErrEnd})
 	}
+	l = append(l, answer{cat(raw(api.Head{Type: '0', Name: "a"}, "d"), end), []api.Entry{file("a", "d")}, 1024, api.OK})
 	for _, data := range []string{"", "Yx", "Yx\x00", "\x00\x00", "Yx\x00\x00\x00", "x\x00\x00", "Qx\x00\x00", "Y\x00\x00", "Y..\x00\x00", "Ya/b\x00\x00", "\x00Yx\x00\x00", "Yx\x00\x00Yx\x00\x00", strings.Repeat("Yx\x00", 1001) + "\x00"} {
 		l = append(l, answer{cat(raw(with('D'), data), end), nil, 0, api.ErrForm})
 	}
